@@ -6,6 +6,7 @@ import (
 	"testing"
 
 	"waybill/api"
+	"waybill/chance"
 	"waybill/u256"
 )
 
@@ -31,11 +32,11 @@ func TestPutBytes(t *testing.T) {
 
 // P1.12: each length of bytes, with and without a zero ahead.
 func TestBytesLengths(t *testing.T) {
-	row := chance(12)
+	row := chance.Row(12)
 	for size := range 33 {
 		b := make([]byte, size)
 		for i := range b {
-			b[i] = byte(row.limb()) | 1
+			b[i] = byte(row.Next()) | 1
 		}
 		want := narrow(new(big.Int).SetBytes(b))
 		if x, e := u256.Get(b); x != want || e != api.OK {

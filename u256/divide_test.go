@@ -5,6 +5,7 @@ import (
 	"testing"
 
 	"waybill/api"
+	"waybill/chance"
 	"waybill/u256"
 )
 
@@ -71,13 +72,13 @@ func TestReduce(t *testing.T) {
 
 // P1.5: dividends near a multiple of the divisor, of every length: a digit of the quotient is then guessed too high by 1 and by 2.
 func TestReduceNearMultiples(t *testing.T) {
-	row := chance(5)
+	row := chance.Row(5)
 	for range 40000 {
-		m := row.number()
+		m := row.Number()
 		if m == zero {
 			continue
 		}
-		q := row.number()
+		q := row.Number()
 		h, l := u256.Mul(q, m)
 		if l == zero {
 			continue

@@ -5,6 +5,7 @@ import (
 	"testing"
 
 	"waybill/api"
+	"waybill/chance"
 	"waybill/u256"
 )
 
@@ -66,46 +67,15 @@ func edges() []api.U256 {
 	return all
 }
 
-// chance is a row of numbers that looks like chance and is the same in every run (splitmix64).
-type chance uint64
-
-func (c *chance) limb() uint64 {
-	*c += 0x9e3779b97f4a7c15
-	z := uint64(*c)
-	z = (z ^ z>>30) * 0xbf58476d1ce4e5b9
-	z = (z ^ z>>27) * 0x94d049bb133111eb
-	return z ^ z>>31
-}
-
-// number tells one of any length, its limbs often at an edge: there the carries and the guesses of a division go wrong.
-func (c *chance) number() api.U256 {
-	var x api.U256
-	for i := range int(c.limb()%4) + 1 {
-		switch c.limb() % 8 {
-		case 0:
-			x[i] = 0
-		case 1:
-			x[i] = most
-		case 2:
-			x[i] = high
-		case 3:
-			x[i] = c.limb() >> (c.limb() % 64)
-		default:
-			x[i] = c.limb()
-		}
-	}
-	return x
-}
-
 // sample: a few edges, for tests that try all triples.
 func sample() []api.U256 {
-	row := chance(3)
+	row := chance.Row(3)
 	all := []api.U256{
 		zero, one, num(2), num(10), num(most), {0, 1}, {1, 1}, {most, most}, {0, 0, 1}, {1, 0, 1}, {most, most, most},
 		{0, 0, 0, 1}, {0, 0, 0, high}, {1, 0, 0, high}, {most, most, most, high - 1}, {0, most, most, most}, {most - 1, most, most, most}, top,
 	}
 	for range 16 {
-		all = append(all, row.number())
+		all = append(all, row.Number())
 	}
 	return all
 }
@@ -119,9 +89,9 @@ func checkPairs(t *testing.T, f func(t *testing.T, x, y api.U256)) {
 			f(t, x, y)
 		}
 	}
-	row := chance(1)
+	row := chance.Row(1)
 	for range 20000 {
-		f(t, row.number(), row.number())
+		f(t, row.Number(), row.Number())
 	}
 }
 
@@ -136,9 +106,9 @@ func checkTriples(t *testing.T, f func(t *testing.T, x, y, m api.U256)) {
 			}
 		}
 	}
-	row := chance(2)
+	row := chance.Row(2)
 	for range 40000 {
-		f(t, row.number(), row.number(), row.number())
+		f(t, row.Number(), row.Number(), row.Number())
 	}
 }
 

@@ -5,6 +5,7 @@ import (
 	"testing"
 
 	"waybill/api"
+	"waybill/chance"
 	"waybill/u256"
 )
 
@@ -20,9 +21,9 @@ func TestExp(t *testing.T) {
 			check(x, y)
 		}
 	}
-	row := chance(8)
+	row := chance.Row(8)
 	for range 1000 {
-		check(row.number(), row.number())
+		check(row.Number(), row.Number())
 	}
 }
 
@@ -72,17 +73,17 @@ func TestRoot(t *testing.T) {
 	for _, x := range edges() {
 		check(x)
 	}
-	row := chance(9)
+	row := chance.Row(9)
 	for range 5000 {
-		check(row.number())
+		check(row.Number())
 	}
 }
 
 // P1.9: each side of a square; the document's examples.
 func TestRootSquares(t *testing.T) {
-	row := chance(10)
+	row := chance.Row(10)
 	for range 5000 {
-		x := row.number()
+		x := row.Number()
 		x[2], x[3] = 0, 0
 		if x == zero {
 			continue

@@ -6,6 +6,7 @@ import (
 	"testing"
 
 	"waybill/api"
+	"waybill/chance"
 	"waybill/u256"
 )
 
@@ -25,9 +26,9 @@ func TestTextParse(t *testing.T) {
 	for _, x := range append(edges(), sample()...) {
 		check(x)
 	}
-	row := chance(13)
+	row := chance.Row(13)
 	for range 5000 {
-		check(row.number())
+		check(row.Number())
 	}
 	for places := range 78 { // beside each power of ten a digit more, at each 19 a chunk more
 		p := new(big.Int).Exp(big.NewInt(10), big.NewInt(int64(places)), nil)
