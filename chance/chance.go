@@ -32,6 +32,24 @@ func (r *Row) Text(n int) []byte {
 	return text
 }
 
+// Roomy tells a text of n bytes that has room beyond its end, and the whole memory.
+func (r *Row) Roomy(n int) (text, whole []byte) {
+	n = max(n, 0)
+	whole = r.Text(n + 300)
+	return whole[:n], whole
+}
+
+// Parts cuts a text into parts of any length, some without bytes.
+func (r *Row) Parts(text []byte) [][]byte {
+	var parts [][]byte
+	for len(text) > 0 {
+		n := r.Below(min(len(text), 200) + 1)
+		parts = append(parts, text[:n])
+		text = text[n:]
+	}
+	return parts
+}
+
 // Number tells one of any length, its limbs often at an edge: there the carries and the guesses of a division go wrong.
 func (r *Row) Number() api.U256 {
 	var x api.U256

@@ -50,6 +50,41 @@ func TestBounds(t *testing.T) {
 	}
 }
 
+// The room is there, and the text lies at its beginning.
+func TestRoomy(t *testing.T) {
+	row := chance.Row(3)
+	for _, n := range []int{0, 1, 100, -1} {
+		text, whole := row.Roomy(n)
+		if len(text) != max(n, 0) || len(whole) <= len(text) || cap(text) < len(whole) || &text[:1][0] != &whole[0] {
+			t.Errorf("%d bytes: %d of %d", n, len(text), len(whole))
+		}
+	}
+}
+
+// The parts are the text again; parts without bytes and several parts come.
+func TestParts(t *testing.T) {
+	row := chance.Row(4)
+	var empty, several int
+	for n := range 500 {
+		text := row.Text(n)
+		parts := row.Parts(text)
+		if !bytes.Equal(bytes.Join(parts, nil), text) {
+			t.Fatalf("%d bytes in parts", n)
+		}
+		if len(parts) > 2 {
+			several++
+		}
+		for _, part := range parts {
+			if len(part) == 0 {
+				empty++
+			}
+		}
+	}
+	if empty == 0 || several == 0 {
+		t.Errorf("%d parts without bytes, %d times several", empty, several)
+	}
+}
+
 // Numbers of one limb to four come, and the edges among them.
 func TestNumber(t *testing.T) {
 	row := chance.Row(2)

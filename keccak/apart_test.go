@@ -9,17 +9,11 @@ import (
 	"waybill/keccak"
 )
 
-// roomy tells a text of n bytes that has room beyond its end, and the whole memory.
-func roomy(row *chance.Row, n int) (text, whole []byte) {
-	whole = row.Text(n + 300)
-	return whole[:n], whole
-}
-
 // P2.9, P0.3: nothing is written into a text, nor into its room beyond the end, and what stands in that room counts for nothing.
 func TestTextsKept(t *testing.T) {
 	row := chance.Row(15)
 	for _, n := range []int{0, 1, 7, 8, block - 1, block, block + 1, 2 * block} {
-		text, whole := roomy(&row, n)
+		text, whole := row.Roomy(n)
 		before := bytes.Clone(whole)
 		want := modelKeccak(text)
 		var s keccak.Sponge
@@ -48,7 +42,7 @@ func TestTextsKept(t *testing.T) {
 func TestWrittenOver(t *testing.T) {
 	row := chance.Row(16)
 	for _, n := range []int{1, 8, block - 1, block, block + 1, 2*block + 1} {
-		text, whole := roomy(&row, n)
+		text, whole := row.Roomy(n)
 		want := modelKeccak(text)
 		var s keccak.Sponge
 		s.Write(text)

@@ -122,7 +122,7 @@ func TestSumParts(t *testing.T) {
 	}
 	for range 200 {
 		text := row.Text(row.Below(1000))
-		parts := cutUp(&row, text)
+		parts := row.Parts(text)
 		if keccak.Sum(parts...) != keccak.Sum(text) || keccak.Sha3(parts...) != keccak.Sha3(text) {
 			t.Fatalf("%d bytes in %d parts", len(text), len(parts))
 		}
@@ -130,17 +130,6 @@ func TestSumParts(t *testing.T) {
 	if keccak.Sum([]byte("a"), nil, []byte("bc")) != keccak.Sum([]byte("abc")) || keccak.Sum([]byte("b"), []byte("a")) == keccak.Sum([]byte("ab")) {
 		t.Error("parts are put one behind the other, in their order")
 	}
-}
-
-// cutUp cuts a text into parts of any length, some empty.
-func cutUp(row *chance.Row, text []byte) [][]byte {
-	var parts [][]byte
-	for len(text) > 0 {
-		n := row.Below(min(len(text), 200) + 1)
-		parts = append(parts, text[:n])
-		text = text[n:]
-	}
-	return parts
 }
 
 // P2.3, P0.17: one digest for each text, in the texts' order.
