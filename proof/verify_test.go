@@ -279,7 +279,7 @@ func TestBehindExtension(t *testing.T) {
 	}
 }
 
-// P13.2: an extension within a branch has no room for a hash or a branch in fewer than 32 bytes beside the branch's other things, but for a short one.
+// P13.2: an extension that stands within a branch, and its own branch within it.
 func TestExtensionWithin(t *testing.T) {
 	twig := branchOf(text(), listOf(text(0x20), text(1)))
 	twig.Items[16] = text(2) // 20 bytes
@@ -291,7 +291,7 @@ func TestExtensionWithin(t *testing.T) {
 	}
 }
 
-// P13.2: the words don't ask a node that is told by its hash to have 32 bytes; and no root but the first asks for nothing.
+// P13.2: the words don't ask a node that is told by its hash to have 32 bytes; and the empty trie's root asks for nothing only as the root, not as a link.
 func TestShortNodesByHash(t *testing.T) {
 	tiny := written(listOf(text(0x20, 0x00), text(1)))
 	first := written(branchOf(hashed(tiny), hashText(), hashed([]byte{0x80})))
