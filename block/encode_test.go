@@ -48,7 +48,7 @@ func TestExamplesOfBytes(t *testing.T) {
 	}
 }
 
-// P20.3 to P20.6, P0.9: blocks of another program's tests, written down from memory; the headers' hashes would show a slip. In the second one the header is that of the first one's transaction alone.
+// P20.3 to P20.6, P0.9: blocks of another program's tests, their bytes written down from memory. The first one's hash was known ahead, and would show a slip; the second one's hash and those of the transactions are what this program has answered, kept so that they stay. In the second block the header is that of the first one's transaction alone.
 func TestKnownBlocks(t *testing.T) {
 	const (
 		head   = "a083cafc574e1f51ba9dc0568fc617a08ea2429fb384059c972f13b19fa1c8dd55a01dcc4de8dec75d7aab85b567b6ccd41ad312451b948a7413f0a142fd40d49347948888f1f195afa192cfee860698584c030f4c9db1a0ef1552a40b7165c3cd773806b9e0c165b75356e0314bf0706f279c729f51e017a05fe50b260da6308036625b850b5d6ced6d0a9f814c0688bc91ffb7b7a3a54b67a0bc37d79753ad738a6dac4921e57392f145d8887476de3f783dfa7edae9283e52b90100"
